@@ -1,6 +1,7 @@
 package dots_test
 
 import (
+	"fmt"
 	"testing"
 
 	"posthorn/api"
@@ -31,11 +32,16 @@ func highEnd(w api.Errno) api.Item {
 	return api.Item{Kind: api.ItemEnd, Why: w, High: true}
 }
 
+// show is an item as a failure tells it; great ones are not told whole.
+func show(x api.Item) string {
+	return fmt.Sprintf("{kind %d, text %q, %d bytes %.80q, why %d, high %v}", x.Kind, x.Text, len(x.Bytes), x.Bytes, x.Why, x.High)
+}
+
 // wantTake asks one Take.
 func wantTake(t *testing.T, r *dots.Reader, b string, n int, want api.Item) {
 	t.Helper()
 	if got, item := r.Take([]byte(b)); got != n || !same(item, want) {
-		t.Fatalf("Take(%.80q): %d, %.300v, want %d, %.300v", b, got, item, n, want)
+		t.Fatalf("Take(%.80q): %d, %s, want %d, %s", b, got, show(item), n, show(want))
 	}
 }
 

@@ -161,7 +161,7 @@ func (w *walk) take(t *testing.T, to int, cuts ...int) {
 	want, wantItem := w.next(to)
 	n, item := w.r.Take(piece)
 	if n != want || !same(item, wantItem) {
-		t.Fatalf("%.80q, text %d, all %d, cut at %d: Take(%.80q) %d, %.300v, want %d, %.300v", w.stream, w.text, w.all, cuts, piece, n, item, want, wantItem)
+		t.Fatalf("%.80q, text %d, all %d, cut at %d: Take(%.80q) %d, %s, want %d, %s", w.stream, w.text, w.all, cuts, piece, n, show(item), want, show(wantItem))
 	}
 	w.told.Write(item.Bytes)
 	if held := w.r.Held(); held != w.held[w.at] {
